@@ -5,6 +5,7 @@ import (
 	"slices"
 
 	"coble/api"
+	"coble/checks"
 )
 
 // The two ways in which the ticks of passages may be gone through.
@@ -31,7 +32,7 @@ func embark(c api.Chart, draught int, cells, ticks []int) (boat, api.Errno) {
 	return boat{s, draught}, api.OK
 }
 
-func isDraught(n int) bool { return between(1, api.MaxDraught)(n) }
+func isDraught(n int) bool { return checks.Between(1, api.MaxDraught)(n) }
 
 func (b boat) surelyFloats(cell, tick int) bool { return b.water(cell, tick).Low >= b.draught }
 

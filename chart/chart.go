@@ -1,7 +1,10 @@
 // Package chart is layer 1: see shared/doc/01-chart.md.
 package chart
 
-import "coble/api"
+import (
+	"coble/api"
+	"coble/checks"
+)
 
 // Check returns ErrChart unless a chart is valid.
 func Check(c api.Chart) api.Errno {
@@ -17,7 +20,7 @@ func Next(c api.Chart, cell, direction int) (int, api.Errno) {
 	if e != api.OK {
 		return 0, e
 	}
-	if !between(0, len(ways)-1)(direction) {
+	if !checks.Between(0, len(ways)-1)(direction) {
 		return 0, api.ErrArg
 	}
 	next, ok := s.next(cell, direction)

@@ -2,9 +2,9 @@ package chart
 
 import (
 	"iter"
-	"slices"
 
 	"coble/api"
+	"coble/checks"
 )
 
 // way is a direction: the rows to the north, and the columns to the east from an even row and from an odd one.
@@ -26,7 +26,7 @@ func open(c api.Chart, cells, ticks []int) (sea, api.Errno) {
 		return sea{}, api.ErrChart
 	}
 	s := sea{c}
-	if !all(cells, s.isCell) || !all(ticks, s.isTick) {
+	if !checks.All(cells, s.isCell) || !checks.All(ticks, s.isTick) {
 		return sea{}, api.ErrArg
 	}
 	return s, api.OK
@@ -34,29 +34,18 @@ func open(c api.Chart, cells, ticks []int) (sea, api.Errno) {
 
 // valid looks at the sides first, so that their product is not too large.
 func valid(c api.Chart) bool {
-	side, depth := between(1, api.MaxSide), between(-api.MaxDepth, api.MaxDepth)
-	ticks, swell := between(1, api.MaxTicks), between(0, api.MaxSwell)
-	height := between(0, api.MaxTide)
-	tide := func(t api.Span) bool { return height(t.Low) && height(t.High) && t.Low <= t.High }
+	side, depth := checks.Between(1, api.MaxSide), checks.Between(-api.MaxDepth, api.MaxDepth)
+	ticks, swell := checks.Between(1, api.MaxTicks), checks.Between(0, api.MaxSwell)
+	tide := checks.Within(0, api.MaxTide)
 	return side(c.Wide) && side(c.High) &&
-		len(c.Depth) == c.Wide*c.High && all(c.Depth, depth) &&
-		ticks(len(c.Tide)) && all(c.Tide, tide) &&
-		len(c.Swell) == len(c.Tide) && all(c.Swell, swell)
+		len(c.Depth) == c.Wide*c.High && checks.All(c.Depth, depth) &&
+		ticks(len(c.Tide)) && checks.All(c.Tide, tide) &&
+		len(c.Swell) == len(c.Tide) && checks.All(c.Swell, swell)
 }
 
-// between returns what reports whether a number is from low to high.
-func between(low, high int) func(int) bool {
-	return func(n int) bool { return low <= n && n <= high }
-}
+func (s sea) isCell(cell int) bool { return checks.Between(0, len(s.Depth)-1)(cell) }
 
-// all reports whether something is so of all elements of a list.
-func all[T any](l []T, is func(T) bool) bool {
-	return !slices.ContainsFunc(l, func(x T) bool { return !is(x) })
-}
-
-func (s sea) isCell(cell int) bool { return between(0, len(s.Depth)-1)(cell) }
-
-func (s sea) isTick(tick int) bool { return between(0, len(s.Tide)-1)(tick) }
+func (s sea) isTick(tick int) bool { return checks.Between(0, len(s.Tide)-1)(tick) }
 
 // next returns the neighbour of a cell in a direction, if there is one.
 func (s sea) next(cell, direction int) (int, bool) {
@@ -68,7 +57,7 @@ func (s sea) next(cell, direction int) (int, bool) {
 		column += w.fromOdd
 	}
 	row += w.north
-	if !between(0, s.High-1)(row) || !between(0, s.Wide-1)(column) {
+	if !checks.Between(0, s.High-1)(row) || !checks.Between(0, s.Wide-1)(column) {
 		return 0, false
 	}
 	return row*s.Wide + column, true

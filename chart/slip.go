@@ -1,6 +1,9 @@
 package chart
 
-import "coble/api"
+import (
+	"coble/api"
+	"coble/checks"
+)
 
 // slip is a ramp on an open chart, with a boat of its draught.
 type slip struct {
@@ -10,9 +13,9 @@ type slip struct {
 
 // hasRamp reports whether a ramp is valid for the chart.
 func (s sea) hasRamp(r api.Ramp) bool {
-	height, surf := between(0, api.MaxTide), between(0, api.MaxSwell)
+	heights, surf := checks.Within(0, api.MaxTide), checks.Between(0, api.MaxSwell)
 	return s.isCell(r.Cell) && isDraught(r.Draught) &&
-		height(r.Least) && height(r.Most) && r.Least <= r.Most && surf(r.Surf)
+		heights(api.Span{Low: r.Least, High: r.Most}) && surf(r.Surf)
 }
 
 // heights returns the heights of the tide with which the boat can be launched in a tick, if there are any: the boat may
