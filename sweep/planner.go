@@ -11,7 +11,7 @@ import (
 type planner struct {
 	search
 	stands [][][]stand // by unit, tick and cell
-	groups [][]set     // by tick: the particles in one cell, for each cell with some
+	groups [][]set     // by tick: the particles in one cell, or outside
 	best   *course     // of those through all ticks
 }
 
@@ -42,7 +42,7 @@ func (s search) best() *course {
 func (s search) groupsIn(tick int) []set {
 	var l []set
 	for _, p := range s.particles {
-		if g := s.inCell(tick, p.Cells[tick]); p.Cells[tick] != outside && !slices.Contains(l, g) {
+		if g := s.inCell(tick, p.Cells[tick]); !slices.Contains(l, g) {
 			l = append(l, g)
 		}
 	}
@@ -139,14 +139,14 @@ func (p *planner) least(c *course, tick int) int {
 		g := p.glimpse(c, tick, later)
 		least -= g.most(0, 0)
 	}
-	return max(0, least)
+	return least
 }
 
 // glimpse is a later tick as a course has it before it.
 type glimpse struct {
 	units  []api.Unit
 	reach  [api.MaxUnits]set // by unit: the particles that it can come upon then
-	groups []set             // of particles in one cell then
+	groups []set             // of particles in one cell then, or outside
 	worth  left              // by group: one percent of what is left of it
 }
 
