@@ -23,21 +23,26 @@ type fleet [api.MaxUnits]int
 
 func look(h api.Hunt) model { return model{h, distances(h.Drift.Chart)} }
 
-// distances goes from neighbour to neighbour.
+// distances tries for each way whether it is shorter over a third cell.
 func distances(c api.Chart) [][]int {
-	var all [][]int
-	for from := range c.Depth {
-		l := slices.Repeat([]int{-1}, len(c.Depth))
-		l[from] = 0
-		for queue := []int{from}; len(queue) > 0; queue = queue[1:] {
-			for n := range c.Depth {
-				if l[n] < 0 && adjoin(c, queue[0], n) {
-					l[n] = l[queue[0]] + 1
-					queue = append(queue, n)
-				}
+	all := make([][]int, len(c.Depth))
+	for a := range all {
+		for b := range all {
+			steps := len(all)
+			if a == b {
+				steps = 0
+			} else if adjoin(c, a, b) {
+				steps = 1
+			}
+			all[a] = append(all[a], steps)
+		}
+	}
+	for over := range all {
+		for a := range all {
+			for b := range all {
+				all[a][b] = min(all[a][b], all[a][over]+all[over][b])
 			}
 		}
-		all = append(all, l)
 	}
 	return all
 }
