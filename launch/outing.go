@@ -22,7 +22,7 @@ const (
 	back   = -1
 )
 
-// never is the price of what can't be: no voyage has as great a one.
+// never is the price of what cannot be: no voyage has as great a one.
 const never = 1 << 40
 
 // outing is a launch of a boat in a tick; its chart ends when the sea gets too rough.
@@ -38,6 +38,7 @@ type outing struct {
 	home  [][]int // for each tick, the least price for which it comes home from each cell
 }
 
+// launch returns the outing that begins in a tick. It has no ways if the boat cannot be launched.
 func (s station) launch(tick int) outing {
 	o := outing{station: s, start: tick, first: s.reach(tick)}
 	if !s.isOpen(tick) {
@@ -74,7 +75,7 @@ func (o outing) goOut() {
 	}
 }
 
-// goHome needs not ask where the boat floats: a cell in which it does not come out is on no way home.
+// goHome does not ask where the boat floats: a cell in which it cannot be on its way out is on no way home.
 func (o outing) goHome() {
 	row := o.all(never)
 	for tick := len(o.home) - 1; tick >= o.start; tick-- {

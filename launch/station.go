@@ -63,7 +63,7 @@ func (s station) isOpen(tick int) bool {
 }
 
 // calm returns the chart up to the last tick in which a boat that is launched in a tick can still be at sea: with a swell
-// that it can't stand all passages end.
+// that it cannot stand all passages end.
 func (s station) calm(tick int) api.Chart {
 	c := s.Chart
 	if n := slices.IndexFunc(c.Swell[tick:], func(swell int) bool { return swell > s.Seas }); n >= 0 {
