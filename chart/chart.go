@@ -4,6 +4,7 @@ package chart
 import (
 	"coble/api"
 	"coble/checks"
+	"coble/lists"
 )
 
 // Check returns ErrChart unless a chart is valid.
@@ -115,5 +116,5 @@ func Windows(c api.Chart, r api.Ramp) (sure, may []api.Span, e api.Errno) {
 		return nil, nil, api.ErrRamp
 	}
 	l := slip{boat{s, r.Draught}, r}
-	return s.spans(l.surelyLaunches), s.spans(l.mayLaunch), api.OK
+	return lists.Spans(len(s.Tide), l.surelyLaunches), lists.Spans(len(s.Tide), l.mayLaunch), api.OK
 }

@@ -34,19 +34,3 @@ func (l slip) mayLaunch(tick int) bool {
 	h, tide := l.heights(tick), l.Tide[tick]
 	return l.Swell[tick] <= l.Surf && max(h.Low, tide.Low) <= min(h.High, tide.High)
 }
-
-// spans returns the ticks of which something is so, as spans that are as long as possible.
-func (s sea) spans(is func(tick int) bool) []api.Span {
-	var l []api.Span
-	for tick := range len(s.Tide) {
-		last := len(l) - 1
-		switch {
-		case !is(tick):
-		case last >= 0 && l[last].High == tick-1:
-			l[last].High = tick
-		default:
-			l = append(l, api.Span{Low: tick, High: tick})
-		}
-	}
-	return l
-}

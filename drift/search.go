@@ -6,6 +6,7 @@ import (
 
 	"coble/api"
 	"coble/checks"
+	"coble/lists"
 )
 
 // search is a drifter on an open sea, with a sign for each of its sightings.
@@ -158,19 +159,11 @@ func (s search) follow(leeway int, l []places) []int {
 // blame returns the indexes of signs that rule out all histories of a kind that has some signs of its own: those that are
 // left when one after the other is taken away as long as the others suffice.
 func (s search) blame(kind ...sign) []int {
-	var left []int
-	for i := range s.signs {
-		left = append(left, i)
-	}
-	for i := range s.signs {
-		others := slices.DeleteFunc(slices.Clone(left), func(k int) bool { return k == i })
+	return lists.Needed(len(s.signs), func(others []int) bool {
 		signs := slices.Clone(kind)
-		for _, k := range others {
-			signs = append(signs, s.signs[k])
+		for _, i := range others {
+			signs = append(signs, s.signs[i])
 		}
-		if !s.isPossible(signs) {
-			left = others
-		}
-	}
-	return left
+		return !s.isPossible(signs)
+	})
 }
