@@ -4,6 +4,7 @@ import (
 	"slices"
 
 	"coble/api"
+	"coble/lists"
 )
 
 // sharing tells which reports may be of one casualty. It remembers what it has found: as there is often a single course
@@ -45,7 +46,7 @@ func (s search) trueOf(course []int) set {
 // contradiction returns the first list of the fewest reports that are true of no course. ErrNone if there is none.
 func (s search) contradiction() ([]int, api.Errno) {
 	found := sharing{search: s}
-	for l := range lists(len(s.Reports)) {
+	for l := range lists.Shortest(len(s.Reports)) {
 		if !found.fit(setOf(l...)) {
 			return l, api.OK
 		}
@@ -77,7 +78,7 @@ func (s *sharing) share(l []int, casualties, most int) ([]int, bool) {
 		return l, true
 	}
 	for number := range min(casualties+1, most) {
-		next := extended(l, number)
+		next := lists.Longer(l, number)
 		if !s.fit(reportsOf(next, number)) {
 			continue
 		}

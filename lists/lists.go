@@ -2,6 +2,7 @@
 package lists
 
 import (
+	"iter"
 	"slices"
 
 	"coble/api"
@@ -37,4 +38,43 @@ func Needed(n int, suffice func([]int) bool) []int {
 		}
 	}
 	return left
+}
+
+// Fewest returns the first of the shortest lists of numbers from 0 to n-1 of which something is so, if there is one.
+func Fewest(n int, is func([]int) bool) ([]int, bool) {
+	for l := range Shortest(n) {
+		if is(l) {
+			return l, true
+		}
+	}
+	return nil, false
+}
+
+// Shortest yields all lists of numbers from 0 to n-1 in ascending order, the shortest first, and of those that are equally
+// long that first which has the lower number at the first place at which they differ.
+func Shortest(n int) iter.Seq[[]int] {
+	return func(yield func([]int) bool) {
+		for waiting := [][]int{nil}; len(waiting) > 0; waiting = waiting[1:] {
+			l := waiting[0]
+			if !yield(l) {
+				return
+			}
+			for next := behind(l); next < n; next++ {
+				waiting = append(waiting, Longer(l, next))
+			}
+		}
+	}
+}
+
+// behind returns the least number that can follow a list.
+func behind(l []int) int {
+	if len(l) == 0 {
+		return 0
+	}
+	return l[len(l)-1] + 1
+}
+
+// Longer returns a list with one number more; others that begin with the same list are left as they are.
+func Longer(l []int, number int) []int {
+	return append(l[:len(l):len(l)], number)
 }
