@@ -45,3 +45,53 @@ func TestNeeded(t *testing.T) {
 		}
 	}
 }
+
+func TestShortest(t *testing.T) {
+	for n, want := range [][][]int{{nil}, {nil, {0}}, {nil, {0}, {1}, {0, 1}}, {nil, {0}, {1}, {2}, {0, 1}, {0, 2}, {1, 2}, {0, 1, 2}}} {
+		var all [][]int
+		for l := range lists.Shortest(n) {
+			all = append(all, l)
+		}
+		if !slices.EqualFunc(all, want, slices.Equal) {
+			t.Errorf("Shortest(%d) = %v", n, all)
+		}
+	}
+	count := 0
+	for l := range lists.Shortest(12) {
+		if len(l) == 2 {
+			break
+		}
+		count++
+	}
+	if count != 13 {
+		t.Errorf("there are %d lists of at most one number below 12", count)
+	}
+}
+
+func TestFewest(t *testing.T) {
+	weights := []int{1, 5, 3, 4, 5}
+	for _, x := range []struct {
+		n, sum int
+		want   []int
+		ok     bool
+	}{{0, 0, nil, true}, {0, 1, nil, false}, {5, 0, nil, true}, {5, 3, []int{2}, true}, {5, 5, []int{1}, true}, {5, 8, []int{1, 2}, true}, {5, 9, []int{1, 3}, true}, {5, 13, []int{1, 2, 4}, true}, {5, 18, []int{0, 1, 2, 3, 4}, true}, {5, 2, nil, false}} {
+		l, ok := lists.Fewest(x.n, func(l []int) bool {
+			sum := 0
+			for _, i := range l {
+				sum += weights[i]
+			}
+			return sum == x.sum
+		})
+		if ok != x.ok || !slices.Equal(l, x.want) {
+			t.Errorf("Fewest of %d for %d = %v, %v", x.n, x.sum, l, ok)
+		}
+	}
+}
+
+func TestLonger(t *testing.T) {
+	l := append(make([]int, 0, 8), 1, 2)
+	a, b := lists.Longer(l, 3), lists.Longer(l, 4)
+	if !slices.Equal(a, []int{1, 2, 3}) || !slices.Equal(b, []int{1, 2, 4}) || l[:3][2] != 0 {
+		t.Errorf("Longer = %v, %v", a, b)
+	}
+}
